@@ -100,7 +100,7 @@ func TestParse(t *testing.T) {
 		v api.Value
 	}{
 		{` { "a" : -0 } `, object([]string{"a"}, num(0))}, {"\t\n\r null\t\n\r ", api.Value{}}, {" [ 1 , 2 ] ", list(num(1), num(2))}, {"[ ]", list()}, {"{ }", object(nil)},
-		{`"\u00e9\ud83d\ude00"`, text("é😀")}, {`"\"\\\/\b\f\n\r\t"`, text("\"\\/\b\f\n\r\t")}, {`"\u00E9\uD83D\uDE00\u0000\uFFFF"`, text("é😀\x00\uffff")}, {`"\ud800\udc00\udbff\udfff"`, text("\U00010000\U0010ffff")},
+		{`"\u00e9\ud83d\ude00"`, text("é😀")}, {`"\"\\\/\b\f\n\r\t"`, text("\"\\/\b\f\n\r\t")}, {`"\u00E9\uD83D\uDE00\u0000\uFFFF"`, text("é😀\x00\uffff")}, {`"\uABCD\uabcd\ud7ff\ue000"`, text("\uabcd\uabcd\ud7ff\ue000")}, {`"\ud800\udc00\udbff\udfff"`, text("\U00010000\U0010ffff")},
 		{"-1", num(-1)}, {"10", num(10)}, {"-9223372036854775808", num(math.MinInt64)}, {"9223372036854775807", num(math.MaxInt64)}, {"\"\x7f\ufffd\"", text("\x7f\ufffd")}, {`{"":1," ":2}`, object([]string{"", " "}, num(1), num(2))},
 		{`{"\u0061":1,"A":2}`, object([]string{"a", "A"}, num(1), num(2))}, {"[[],[[],{}]]", list(list(), list(list(), object(nil)))}, {strings.Repeat("[", 8) + strings.Repeat("]", 8), nest(7, list())},
 	} {
@@ -114,7 +114,7 @@ func TestParse(t *testing.T) {
 func TestBad(t *testing.T) {
 	for _, s := range []string{
 		"", " ", "01", "1.0", "1e3", "-", "+1", "--1", "-01", "00", "9223372036854775808", "-9223372036854775809", "99999999999999999999999", "[1,]", "[,1]", "[1 2]", "[", "]", "[1", "{", "}", `{"a"}`, `{"a":}`, `{"a":1,}`, `{,}`, `{a:1}`, `{1:1}`, `{"a":1,"a":2}`,
-		`{"a":1,"\u0061":2}`, `{"a" 1}`, `{"a":1 "b":2}`, `"`, `"a`, `"\`, `"\u`, `"\u12`, `"\u123"`, `"\u123g"`, `"\x"`, `"\U0041"`, `"\ud800"`, `"\udc00"`, `"\ud800\u0041"`, `"\ud800\n"`, `"\ud800\ud800"`, `"\udc00\ud800"`, `"\ud800x`, "\"\n\"", "\"\x00\"", "\"\x1f\"", "\"\xff\"", "\"\xed\xa0\x80\"", "\"\xc0\x80\"", "\"\xf4\x90\x80\x80\"", "\"\xe9\"",
+		`{"a":1,"\u0061":2}`, `{"a" 1}`, `{"a":1 "b":2}`, `"`, `"a`, `"\`, `"\u`, `"\u12`, `"\u123"`, `"\u123g"`, `"\x"`, `"\U0041"`, `"\ud800"`, `"\udc00"`, `"\ud800\u0041"`, `"\ud800\n"`, `"\ud800\ud800"`, `"\udc00\ud800"`, `"\ud800x`, `"\udc00\udc00"`, `"\udfff\udfff"`, `"\udfff"`, `"\ud800\ue000"`, `"\ud800\udbff"`, `"\u@bcd"`, `"\u000G"`, "\"\n\"", "\"\x00\"", "\"\x1f\"", "\"\xff\"", "\"\xed\xa0\x80\"", "\"\xc0\x80\"", "\"\xf4\x90\x80\x80\"", "\"\xe9\"",
 		"nul", "nulll", "Null", "tru", "falsy", "true false", "1 1", "null\x00", "\x00", "\v1", "\u00a01", "\ufeff1", "'a'", "//\n1", "[1]]", "NaN", "0x1", "1_0", "a",
 	} {
 		if v, e := Parse([]byte(s)); !Same(v, api.Value{}) || e != api.ErrBytes {
@@ -141,6 +141,15 @@ func TestField(t *testing.T) {
 		t.Error("a kid")
 	} else if k.Kids[0] = num(3); v.Kids[1].Kids[0].Num != 2 {
 		t.Error("shared")
+	}
+	if k, is := Field(v, "a"); !is || k.Num != 1 {
+		t.Error("the first kid")
+	}
+	deep := object([]string{"x"}, list(list(num(1), object([]string{"n"}, num(2)))))
+	k, _ := Field(deep, "x")
+	k.Kids[0].Kids[0].Num, k.Kids[0].Kids[1].Names[0] = 7, "m"
+	if in := deep.Kids[0].Kids[0]; in.Kids[0].Num != 1 || in.Kids[1].Names[0] != "n" {
+		t.Error("shared, deeper")
 	}
 	for _, x := range []api.Value{v, {}, list(num(1)), object([]string{"c"}), {Kind: api.List, Names: []string{"c"}, Kids: []api.Value{{}}}} {
 		if k, is := Field(x, "c"); is || !Same(k, api.Value{}) {

@@ -47,6 +47,9 @@ func TestPut(t *testing.T) {
 			if m, next, e := Take(append(out, 9), 1, size); m != low || next != size+1 || e != api.OK {
 				t.Error("Take", n, size)
 			}
+			if m, next, e := Take(out, 1, size); m != low || next != size+1 || e != api.OK {
+				t.Error("Take of just enough", n, size)
+			}
 			if m, next, e := Take(out[:size], 1, size); m != 0 || next != 0 || e != api.ErrBytes {
 				t.Error("Take of too few", n, size)
 			}
@@ -83,6 +86,9 @@ func TestVar(t *testing.T) {
 		}
 		if m, next, e := TakeVar(append(out, 1, 2), 1); m != n || next != len(out) || e != api.OK {
 			t.Error("TakeVar", n, m, next, e)
+		}
+		if m, next, e := TakeVar(out, 1); m != n || next != len(out) || e != api.OK {
+			t.Error("TakeVar of just enough", n, e)
 		}
 		for cut := 1; cut < len(out); cut++ {
 			if m, next, e := TakeVar(out[:cut], 1); m != 0 || next != 0 || e != api.ErrBytes {

@@ -29,7 +29,7 @@ func TestOf(t *testing.T) {
 		t    api.Big
 		is   bool
 	}{
-		{0x1d00ffff, limit, true}, {0x03000005, big.Of(5), true}, {0x01050000, big.Of(5), true}, {0x02000500, big.Of(5), true},
+		{0x1d00ffff, limit, true}, {0x03000005, big.Of(5), true}, {0x01050000, big.Of(5), true}, {0x01010000, big.Of(1), true}, {0x02000500, big.Of(5), true},
 		{0, api.Big{}, false}, {0x03800005, api.Big{}, false}, {0x23000001, api.Big{}, false}, {0x22000001, big.Up(big.Of(1), 248), true},
 		{0x220000ff, big.Up(big.Of(255), 248), true}, {0x22000100, api.Big{}, false}, {0x2100ffff, big.Up(big.Of(0xffff), 240), true},
 		{0x21010000, api.Big{}, false}, {0x207fffff, big.Up(big.Of(0x7fffff), 232), true}, {0x0100ffff, api.Big{}, false},

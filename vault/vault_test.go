@@ -128,6 +128,31 @@ func TestWrong(t *testing.T) {
 	opened(t, big, string(make([]byte, api.MaxRecord)), "")
 }
 
+// TestNewSynced: P12.1, the head of a new vault is kept, whatever the power does.
+func TestNewSynced(t *testing.T) {
+	d := made(t, 100)
+	opened(t, d)
+	wants(t, "power", api.OK, d.Off(), d.On())
+	if len(read(d, 1)) != 44 || len(read(d, 0)) != 0 {
+		t.Error("the head is not kept")
+	}
+}
+
+// TestCompactRoom: P12.3, just as much room as there must be, with what stands in the other file.
+func TestCompactRoom(t *testing.T) {
+	for most, want := range map[int]api.Errno{44 + 44 + 37: api.OK, 44 + 44 + 36: api.ErrFull} {
+		for _, there := range []int{0, 5} {
+			d := made(t, most)
+			v := opened(t, d)
+			wants(t, "what stands there", api.OK, d.Write(0, make([]byte, there)))
+			wants(t, "Compact", want, v.Compact(recs("a")))
+			if want == api.OK && (v.Gen() != 2 || v.Len() != 1 || len(read(d, 0)) != 81) || want != api.OK && len(read(d, 0)) != there {
+				t.Error("Compact", most, there)
+			}
+		}
+	}
+}
+
 // laid makes a disk with these files.
 func laid(t *testing.T, zero, one []byte) *disk.Disk {
 	d := made(t, 100000)
