@@ -26,10 +26,15 @@ type reader struct {
 }
 
 // Parse: the value that bytes are written as. (P6.3)
-func Parse(b []byte) (v api.Value, e api.Errno) {
+func Parse(b []byte) (api.Value, api.Errno) {
 	if len(b) > api.MaxLine {
-		return v, api.ErrMany
+		return api.Value{}, api.ErrMany
 	}
+	return readWhole(b)
+}
+
+// readWhole reads the one value that bytes are, and catches the panic of a reader that can't go on.
+func readWhole(b []byte) (v api.Value, e api.Errno) {
 	defer func() {
 		if fault := recover(); fault != nil {
 			v, e = api.Value{}, api.ErrBytes

@@ -14,10 +14,15 @@ type short struct{}
 type reader struct{ rest []byte }
 
 // Get is the transaction whose bytes these are.
-func Get(b []byte) (t api.Tx, e api.Errno) {
+func Get(b []byte) (api.Tx, api.Errno) {
 	if len(b) > api.MaxTx {
-		return t, api.ErrMany
+		return api.Tx{}, api.ErrMany
 	}
+	return readWhole(b)
+}
+
+// readWhole reads the one transaction that bytes are, and catches the panic of a reader whose bytes are at an end.
+func readWhole(b []byte) (t api.Tx, e api.Errno) {
 	defer func() {
 		if recover() != nil {
 			t, e = api.Tx{}, api.ErrBytes
