@@ -92,6 +92,23 @@ func TestErrors(t *testing.T) {
 	}
 }
 
+// TestBack: P16.4, what a popped block had is not there any more, and what it had spent is.
+func TestBack(t *testing.T) {
+	c := testchain.New(testchain.Easy())
+	x := New(c.P.First)
+	m := mint(1, out(50, []byte("s")))
+	x.Push(c.Grow(m))
+	y := spend([]api.Out{out(30, []byte("s"))}, at(m, 0))
+	x.Push(c.Next(mint(2, out(0, nil)), y))
+	x.Pop()
+	if e := x.Push(c.Next(mint(2, out(0, nil)), spend([]api.Out{out(1, nil)}, at(y, 0)))); e != api.ErrSpent {
+		t.Error("an output of a popped block", e)
+	}
+	if e := x.Push(c.Next(mint(2, out(0, nil)), spend([]api.Out{out(1, nil)}, at(m, 0)))); e != api.OK {
+		t.Error("what it had spent", e)
+	}
+}
+
 // TestNone: no index.
 func TestNone(t *testing.T) {
 	var x *Index

@@ -121,6 +121,9 @@ func TestRight(t *testing.T) {
 	if n, e := Right([]api.Block{wrongRoot}); n != 0 || e != api.ErrProof {
 		t.Error("a first block of another root", e)
 	}
+	if n, e := Right([]api.Block{{Header: api.Header{Prev: api.Hash{2}, Root: api.Hash{1}}}}); n != 0 || e != api.OK {
+		t.Error("a first block without transactions, whatever its header", e)
+	}
 	if n, e := Right(nil); n != 0 || e != api.OK {
 		t.Error("none")
 	}
