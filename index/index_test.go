@@ -48,6 +48,12 @@ func TestExample(t *testing.T) {
 	if x.Push(c.Grow(m)) != api.OK || x.Push(c.Grow(y)) != api.OK || x.Height() != 2 {
 		t.Error("Push")
 	}
+	for n := -1; n < 4; n++ {
+		h, is := x.Header(n)
+		if is != (n >= 0 && n < 3) || is && h != c.Blocks[n].Header || !is && h != (api.Header{}) {
+			t.Error("Header", n)
+		}
+	}
 	s := sha.Sum([]byte("s"))
 	if g, n, is := x.Tx(tx.Id(y)); !is || n != 2 || !tx.Same(g, y) {
 		t.Error("Tx")
