@@ -31,7 +31,7 @@ func plain(id, item api.Hash, n int) uint64 {
 	h, _, _ := octet.Take(sum[:], 0, 8)
 	x := new(big.Int).SetUint64(h)
 	x.Mul(x, big.NewInt(int64(n)))
-	x.Mul(x, big.NewInt(Per))
+	x.Mul(x, big.NewInt(784931))
 	return x.Rsh(x, 64).Uint64()
 }
 
@@ -176,6 +176,9 @@ func TestItems(t *testing.T) {
 		if got := Items(c.Blocks, n); !slices.Equal(got, want) {
 			t.Error("Items", n)
 		}
+	}
+	if got := Items(slices.Clip(c.Blocks[:2:2]), 2); got != nil {
+		t.Error("no such block")
 	}
 	// What stands behind, or nowhere, is not found.
 	back := []api.Block{{Txs: []api.Tx{y, x, m, spend([]api.Out{out(1, []byte("z"))}, api.Place{}, at(m, 9), at(m, 1<<32-1))}}}
