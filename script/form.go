@@ -112,15 +112,15 @@ func Read(line string) (api.Act, api.Errno) {
 		case 'B':
 			a.B = r.bytes()
 		case 'X':
-			a.Block = r.block()
+			a.Block = blockOf(r.bytes())
 		case 'P':
 			for len(r.words) > 0 {
 				a.Picks = append(a.Picks, r.number())
 			}
 		}
 	}
-	// What is written in another way than Form has it is no act's.
-	if again, e := Form(a); r.bad || e != api.OK || again != line {
+	// What is written in another way than Form has it is no act's: so a word that is wanting, or says nothing, may be read as zero.
+	if again, e := Form(a); e != api.OK || again != line {
 		return api.Act{}, api.ErrBytes
 	}
 	return a, api.OK
@@ -136,15 +136,11 @@ func actOf(word string) uint8 {
 	return 0
 }
 
-// reader of words; bad, once one was wanting or said nothing.
-type reader struct {
-	words []string
-	bad   bool
-}
+// reader of words; what is wanting, or says nothing, is zero.
+type reader struct{ words []string }
 
 func (r *reader) word() string {
 	if len(r.words) == 0 {
-		r.bad = true
 		return ""
 	}
 	word := r.words[0]
@@ -153,49 +149,37 @@ func (r *reader) word() string {
 }
 
 func (r *reader) number() int {
-	n, err := strconv.Atoi(r.word())
-	r.bad = r.bad || err != nil
+	n, _ := strconv.Atoi(r.word())
 	return n
 }
 
 func (r *reader) bytes() []byte {
-	word := r.word()
-	if word == none {
-		return nil
-	}
-	b, e := octet.Unhex(word)
-	r.bad = r.bad || e != api.OK
+	b, _ := octet.Unhex(r.word())
 	return b
 }
 
-func (r *reader) block() api.Block {
-	raw := r.bytes()
-	block, is := getBlock(raw)
-	r.bad = r.bad || !is
-	return block
-}
-
-// getBlock is the block whose bytes these are.
-func getBlock(raw []byte) (api.Block, bool) {
-	head, at, e := octet.Some(raw, 0, headerSize)
-	if e != api.OK {
-		return api.Block{}, false
-	}
+// blockOf is the block whose bytes these are, as far as they are a block's.
+func blockOf(raw []byte) api.Block {
 	var b api.Block
+	head, at, _ := octet.Some(raw, 0, headerSize)
 	b.Header, _ = header.Get(head)
 	count, at, e := octet.TakeVar(raw, at)
 	for n := uint64(0); n < count && e == api.OK; n++ {
-		var size uint64
 		var part []byte
-		if size, at, e = octet.TakeVar(raw, at); e != api.OK {
-			break
-		}
-		if part, at, e = octet.Some(raw, at, size); e != api.OK {
-			break
-		}
 		var t api.Tx
-		t, e = tx.Get(part)
-		b.Txs = append(b.Txs, t)
+		if part, at, e = takeItem(raw, at); e == api.OK {
+			t, e = tx.Get(part)
+			b.Txs = append(b.Txs, t)
+		}
 	}
-	return b, e == api.OK && at == len(raw)
+	return b
+}
+
+// takeItem takes bytes of which it stands ahead how many they are.
+func takeItem(raw []byte, at int) (part []byte, next int, e api.Errno) {
+	size, next, e := octet.TakeVar(raw, at)
+	if e != api.OK {
+		return nil, 0, e
+	}
+	return octet.Some(raw, next, size)
 }

@@ -201,6 +201,12 @@ func TestViews(t *testing.T) {
 	seed := []byte("seed")
 	m := mint(1, out(50, gap.Script(seed, 1)), out(9, gap.Script(seed, 0)))
 	x := spend([]api.Out{out(30, gap.Script(seed, 1)), out(20, nil)}, at(m, 0))
+	for range 9 {
+		m.Outs = append(m.Outs, out(0, nil))
+	}
+	m.Outs = append(m.Outs, m.Outs[1])
+	m.Outs[1].Script = nil
+	x.Ins[0].From = at(m, 0)
 	var lines []string
 	for _, b := range []api.Block{c.Grow(m), c.Grow(x)} {
 		s, e := Form(api.Act{Do: api.ActIngest, Block: b})
@@ -218,7 +224,7 @@ func TestViews(t *testing.T) {
 	one, two := api.Entry{Height: 1, Tx: tx.Id(m)}, api.Entry{Height: 2, Tx: tx.Id(x)}
 	entry := func(e api.Entry) string { return "entry " + strconv.Itoa(e.Height) + " " + octet.Turned(e.Tx) + "\n" }
 	want := "best 2 " + octet.Turned(header.Id(c.Blocks[2].Header)) + "\nwatched 4\n" +
-		"script 0 " + status.Of([]api.Entry{one}) + "\n" + entry(one) + "coin " + octet.Turned(one.Tx) + " 1 9 1\n" +
+		"script 0 " + status.Of([]api.Entry{one}) + "\n" + entry(one) + "coin " + octet.Turned(one.Tx) + " 11 9 1\n" +
 		"script 1 " + status.Of([]api.Entry{one, two}) + "\n" + entry(one) + entry(two) + "coin " + octet.Turned(two.Tx) + " 0 30 2\n" +
 		"balance 39\nquiet\n"
 	if Views(w) != want || !strings.HasSuffix(s, "= 0\n"+want) {

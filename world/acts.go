@@ -181,12 +181,9 @@ func (w *World) crash(a api.Act) api.Errno {
 		w.dead = true
 		return e
 	}
-	fresh, e := wallet.New(w.p, w.room, w.seed, w.gap)
-	if e != api.OK {
-		w.dead = true
-		return e
-	}
-	w.vault, w.wallet, w.dead = v, fresh, false
+	// One was made of these before.
+	w.wallet, _ = wallet.New(w.p, w.room, w.seed, w.gap)
+	w.vault, w.dead = v, false
 	for _, rec := range records {
 		w.wallet.Load(rec)
 	}

@@ -119,6 +119,12 @@ func TestErrors(t *testing.T) {
 	if up, down := w.Way(0); up != 0 || down != 0 || !w.Quiet() {
 		t.Error("cut")
 	}
+	// One byte is not quiet; none brings nothing.
+	does(t, w, api.OK, api.Act{Do: api.ActLink, K: 1, S: -1}, api.Act{Do: api.ActUp, K: 1, N: all}, api.Act{Do: api.ActSay, K: 1, B: []byte("x")}, api.Act{Do: api.ActDown, K: 1, N: 0})
+	if _, down := w.Way(1); down != 1 || w.Quiet() {
+		t.Error("one byte")
+	}
+	does(t, w, api.OK, api.Act{Do: api.ActCut, K: 1})
 	// A server with as many sessions as may be.
 	for range api.MaxLinks {
 		w.Server(0).Open()
@@ -133,6 +139,46 @@ func TestErrors(t *testing.T) {
 	}
 	does(t, w, api.ErrNone, api.Act{Do: api.ActUp, K: 3, N: 1})
 	does(t, w, api.OK, api.Act{Do: api.ActCut, K: 3})
+	// The same, closed by what goes up: what is said on the one line is not the other one's.
+	does(t, w, api.OK, api.Act{Do: api.ActLink, K: 3})
+	w.Server(0).Feed(4, []byte("x"))
+	does(t, w, api.ErrFault, api.Act{Do: api.ActUp, K: 3, N: 100})
+	does(t, w, api.OK, api.Act{Do: api.ActLink, K: 6})
+	does(t, w, api.ErrNone, api.Act{Do: api.ActUp, K: 3, N: all})
+	if _, down := w.Way(3); down != 0 {
+		t.Error("another line's answers")
+	}
+	does(t, w, api.OK, api.Act{Do: api.ActCut, K: 3}, api.Act{Do: api.ActUp, K: 6, N: all})
+	if _, down := w.Way(6); down == 0 {
+		t.Error("its own answers")
+	}
+}
+
+// TestKept: R3, what a world is made of is its own.
+func TestKept(t *testing.T) {
+	c := testchain.New(testchain.Easy())
+	c.Grow()
+	p := c.P
+	p.Points = []api.Point{{Height: 1, Hash: header.Id(c.Blocks[1].Header)}}
+	own := []byte("seed")
+	w, e := New(p, 50, own, 2, 1, 1000)
+	if e != api.OK {
+		t.Fatal(e)
+	}
+	p.Points[0].Hash = api.Hash{}
+	own[0] = 'x'
+	does(t, w, api.OK, api.Act{Do: api.ActCrash}, api.Act{Do: api.ActLink})
+	does(t, w, api.OK, api.Act{Do: api.ActIngest, Block: c.Blocks[1]})
+	pump(t, w)
+	hash := octet.Turned(gap.Hash(seed, 0))
+	if _, n := w.Wallet().Best(); n != 1 {
+		t.Error("the points are kept")
+	}
+	does(t, w, api.OK, api.Act{Do: api.ActCut}, api.Act{Do: api.ActCrash}, api.Act{Do: api.ActLink, S: -1})
+	if e := w.Do(api.Act{Do: api.ActSay, B: []byte(`{"id":1,"result":null}` + "\n" + `{"method":"blockchain.scripthash.subscribe","params":["` + hash + `",null]}` + "\n")}); e != api.OK {
+		t.Error(e)
+	}
+	does(t, w, api.OK, api.Act{Do: api.ActDown, N: all})
 }
 
 // TestStranger: one that says what may not be, and one that plays a server.
