@@ -96,8 +96,10 @@ func TestExample(t *testing.T) {
 	add(a, 1)
 	add(p.First, 0)
 	add(d, 2, header.Id(d))
-	if h, is := f.At(1); h != b || !is {
-		t.Error("At")
+	for n, want := range []api.Header{p.First, b, c} {
+		if h, is := f.At(n); h != want || !is {
+			t.Error("At", n)
+		}
 	}
 	for _, n := range []int{-1, 3, math.MaxInt, math.MinInt} {
 		if h, is := f.At(n); h != (api.Header{}) || is {
@@ -116,6 +118,21 @@ func TestExample(t *testing.T) {
 	}
 	if all, forks := f.Size(); all != 4 || forks != 1 {
 		t.Error("turned")
+	}
+}
+
+// TestKept: R3, the points are the forest's own; and they count.
+func TestKept(t *testing.T) {
+	p := easy()
+	a := mined(p, []api.Header{p.First}, 1, 10)
+	p.Points = []api.Point{{Height: 1, Hash: header.Id(a)}}
+	f := made(t, p, 1)
+	p.Points[0].Hash = api.Hash{}
+	if _, _, e := f.Add(mined(p, []api.Header{p.First}, 2, 10)); e != api.ErrPoint {
+		t.Error("another header than a point's", e)
+	}
+	if _, _, e := f.Add(a); e != api.OK {
+		t.Error("the points are kept", e)
 	}
 }
 
