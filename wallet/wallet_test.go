@@ -314,8 +314,36 @@ func TestFaults(t *testing.T) {
 	for range 3 {
 		far.Grow(mint(7))
 	}
-	chunked := func(d *desk) { d.answers(headersSub, tip(far, 3), api.OK) }
 	type step func(*desk)
+	chunked := func(d *desk) { d.answers(headersSub, tip(far, 3), api.OK) }
+	// behind is a link on which a chunk from 2 on is asked for: c's first block is known, another one's third is the tip.
+	behind := func(d *desk) {
+		d.answers(headersSub, tip(c, 1), api.OK)
+		d.says(`{"method":"`+headersSub+`","params":[`+tip(far, 3)+`]}`, api.OK)
+		i := d.find(getChunk)
+		if i < 0 || d.asks[i].Params.Kids[0].Num != 1 {
+			d.t.Fatal("not from 1")
+		}
+		d.answers(getChunk, chunk(far, 1, 2), api.OK)
+		i = d.find(getChunk)
+		if i < 0 || d.asks[i].Params.Kids[0].Num != 3 {
+			d.t.Fatal("not from 3")
+		}
+	}
+	// emptied is a link on which a history is asked for, and the status is none by then.
+	emptied := func(d *desk) {
+		d.answers(headersSub, tip(c, 1), api.OK)
+		d.answers(scriptSub, word, api.OK)
+		d.says(`{"method":"`+scriptSub+`","params":[`+hashText(0)+`,null]}`, api.OK)
+	}
+	// worded is a link on which a script has the status of just these entries.
+	worded := func(l ...api.Entry) step {
+		return func(d *desk) {
+			d.answers(headersSub, tip(c, 1), api.OK)
+			d.answers(scriptSub, quoted(status.Of(l)), api.OK)
+			d.answers(getHistory, history(l...), api.ErrFault)
+		}
+	}
 	says := func(line string) step { return func(d *desk) { d.says(line, api.ErrFault) } }
 	answers := func(method, result string) step {
 		return func(d *desk) { d.answers(method, result, api.ErrFault) }
@@ -338,6 +366,10 @@ func TestFaults(t *testing.T) {
 		{ready, answers(getBranch, "null")}, {ready, answers(getBranch, `{"block_height":2,"merkle":[],"pos":0}`)}, {ready, answers(getBranch, `{"block_height":1,"merkle":[],"pos":-1}`)}, {ready, answers(getBranch, `{"block_height":1,"merkle":[],"pos":4294967296}`)}, {ready, answers(getBranch, `{"block_height":1,"merkle":[],"pos":"0"}`)}, {ready, answers(getBranch, `{"block_height":1,"merkle":["00"],"pos":0}`)}, {ready, answers(getBranch, `{"block_height":1,"merkle":[1],"pos":0}`)}, {ready, answers(getBranch, `{"block_height":1,"merkle":null,"pos":0}`)}, {ready, answers(getBranch, `{"block_height":1,"merkle":[]}`)}, {ready, answers(getBranch, `{"block_height":1,"merkle":[],"pos":0,"x":0}`)}, {ready, answers(getBranch, `{"block_height":"1","merkle":[],"pos":0}`)},
 		{ready, answers(getBranch, `{"block_height":1,"merkle":[`+strings.Repeat(quoted(octet.Turned(api.Hash{}))+",", 32)+quoted(octet.Turned(api.Hash{}))+`],"pos":0}`)},
 		{chunked, refuses(getChunk)}, {chunked, answers(getChunk, "null")}, {chunked, answers(getChunk, `{"count":1,"hex":"`+hex+`"}`)}, {chunked, answers(getChunk, `{"count":2,"hex":"`+hex+`","max":1}`)}, {chunked, answers(getChunk, `{"count":0,"hex":"`+hex+`","max":1}`)}, {chunked, answers(getChunk, `{"count":-1,"hex":"","max":1}`)}, {chunked, answers(getChunk, `{"count":101,"hex":"`+strings.Repeat(hex, 101)+`","max":1}`)}, {chunked, answers(getChunk, `{"count":1,"hex":"`+hex[2:]+`","max":1}`)}, {chunked, answers(getChunk, `{"count":1,"hex":1,"max":1}`)}, {chunked, answers(getChunk, `{"count":"1","hex":"`+hex+`","max":1}`)},
+		{chunked, answers(getChunk, `{"count":0,"hex":"00","max":1}`)}, {chunked, answers(getChunk, `{"count":0,"hex":1,"max":1}`)}, {chunked, answers(getChunk, `{"count":0,"hex":"0","max":1}`)},
+		{behind, answers(getChunk, `{"count":2,"hex":"`+octet.Hex(header.Put(far.Blocks[3].Header))+octet.Hex(header.Put(api.Header{}))+`","max":1}`)}, {behind, answers(getChunk, `{"count":1,"hex":"`+octet.Hex(header.Put(lazy))+`","max":1}`)},
+		{emptied, answers(getHistory, "null")}, {emptied, answers(getHistory, "[1]")}, {emptied, answers(getHistory, `[{"height":"1","tx_hash":"00"}]`)}, {emptied, answers(getHistory, `[{"height":1,"tx_hash":"00"}]`)}, {emptied, refuses(getHistory)}, {emptied, answers(getHistory, history(entry))},
+		{nil, worded(entry, entry)}, {nil, worded(api.Entry{Tx: entry.Tx})}, {nil, worded(api.Entry{Height: -1, Tx: entry.Tx})}, {nil, worded(api.Entry{Height: 2, Tx: entry.Tx}, api.Entry{Height: 1})}, {asked, answers(getHistory, `{"a":`+strings.Trim(history(entry), "[]")+`}`)},
 		{chunked, answers(getChunk, chunk(far, 2, 1))}, {chunked, answers(getChunk, `{"count":2,"hex":"`+hex+octet.Hex(header.Put(far.Blocks[3].Header))+`","max":1}`)}, {chunked, answers(getChunk, `{"count":2,"hex":"`+hex+octet.Hex(header.Put(lazy))+`","max":1}`)},
 	} {
 		w := made(t, 2)
@@ -356,6 +388,9 @@ func TestFaults(t *testing.T) {
 		good.answers(headersSub, tip(c, 1), api.OK)
 		good.answers(scriptSub, word, api.OK)
 		good.answers(scriptSub, "null", api.OK)
+		if _, n := w.Best(); n > 1 {
+			continue // what was right ahead of the fault is held: another chain is the best one
+		}
 		good.answers(getHistory, history(entry), api.OK)
 		good.answers(getTx, rawOf(m), api.OK)
 		good.answers(getBranch, branchOf(c.Blocks[1], 1, 0), api.OK)
@@ -464,6 +499,18 @@ func TestJobs(t *testing.T) {
 	if len(w.Shown()) != 0 {
 		t.Error("shown")
 	}
+	// The same, where another link brings the other best header: there is no job, so the history is asked for.
+	w, d = start()
+	d.refuses(getBranch, api.OK)
+	d.answers(getTx, rawOf(m), api.OK)
+	d.waits()
+	o := opened(t, w, 1)
+	o.answers(headersSub, tip(c, 2), api.OK)
+	d.took(o.last)
+	d.waits(getHistory)
+	// A branch of as many hashes as may be.
+	w, d = start()
+	d.answers(getBranch, `{"block_height":1,"merkle":[`+strings.Repeat(quoted(octet.Turned(api.Hash{}))+",", 31)+quoted(octet.Turned(api.Hash{}))+`],"pos":4294967295}`, api.OK)
 	// A branch that does not lead to the root: the job stays, until the best header is another one.
 	w, d = start()
 	d.answers(getTx, rawOf(m), api.OK)
@@ -526,6 +573,56 @@ func TestJobs(t *testing.T) {
 	d.answers(getHistory, history(one, two), api.OK)
 	if i := d.find(getTx); i < 0 || d.asks[i].Params.Kids[0].Text != octet.Turned(two.Tx) || len(w.lines[0].scripts[0].jobs) != 1 {
 		t.Error("jobs")
+	}
+}
+
+// TestAtOnce: what comes in one Feed is taken in order: one that was proven just ahead is no job of another script.
+func TestAtOnce(t *testing.T) {
+	c := testchain.New(testchain.Easy())
+	m := mint(1, out(50, gap.Script(seed, 0)), out(5, gap.Script(seed, 1)))
+	c.Grow(m)
+	one := api.Entry{Height: 1, Tx: tx.Id(m)}
+	word := quoted(status.Of([]api.Entry{one}))
+	w := made(t, 2)
+	d := opened(t, w, 0)
+	d.answers(headersSub, tip(c, 1), api.OK)
+	d.answers(scriptSub, word, api.OK)
+	d.answers(scriptSub, word, api.OK)
+	i := d.find(getHistory)
+	first, second := d.asks[i].Id, d.asks[i+1].Id
+	d.asks = nil
+	line := func(id int64, result string) string {
+		return `{"id":` + strconv.FormatInt(id, 10) + `,"result":` + result + "}"
+	}
+	d.says(line(first, history(one)), api.OK)
+	d.waits(getTx, getBranch)
+	raw, branch := d.asks[0].Id, d.asks[1].Id
+	d.asks = nil
+	d.says(line(raw, rawOf(m))+"\n"+line(branch, branchOf(c.Blocks[1], 1, 0))+"\n"+line(second, history(one)), api.OK)
+	d.waits(scriptSub, scriptSub)
+	if w.Balance() != 55 {
+		t.Error("Balance", w.Balance())
+	}
+}
+
+// TestOneByOne: P26.5, a chunk of one header goes on.
+func TestOneByOne(t *testing.T) {
+	c := testchain.New(testchain.Easy())
+	for range 4 {
+		c.Grow()
+	}
+	w := made(t, 1)
+	d := opened(t, w, 0)
+	d.answers(headersSub, tip(c, 4), api.OK)
+	for n := 1; n <= 4; n++ {
+		if i := d.find(getChunk); i < 0 || d.asks[i].Params.Kids[0].Num != int64(n) {
+			t.Fatal("a chunk from", n)
+		}
+		d.answers(getChunk, chunk(c, n, 1), api.OK)
+	}
+	d.waits(scriptSub)
+	if _, n := w.Best(); n != 4 {
+		t.Error("Best", n)
 	}
 }
 
